@@ -241,8 +241,9 @@ func history() []*op {
 	}
 }
 
-// P23.2 to P23.4: each two works in every order of their steps: whoever isn't refused did all at once, between its begin and its end.
-func TestAllOrders(t *testing.T) {
+// P23.2 to P23.4: each two works in the orders of their steps, of the many that two with a lock have in each fourth: whoever isn't refused did all at once,
+// between its begin and its end.
+func TestOrders(t *testing.T) {
 	for _, one := range works(1) {
 		t.Run(fmt.Sprint(one.What), func(t *testing.T) {
 			t.Parallel()
@@ -252,7 +253,7 @@ func TestAllOrders(t *testing.T) {
 				}
 				refused, both := 0, 0
 				for i, order := range orders(stepsOf(one), stepsOf(other)) {
-					// Of the longest ones some, so that it takes no minutes.
+					// All of them would take minutes.
 					if len(order) > 7 && (i+one.What+other.What)%4 > 0 {
 						continue
 					}
